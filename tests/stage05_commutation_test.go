@@ -426,17 +426,14 @@ func TestMultiplyDivideErrors(t *testing.T) {
 	check(-5, 1, -5)
 }
 
-// TestColumnsKeepNothing asks for columns of many tables at the same time.
-func TestColumnsKeepNothing(t *testing.T) {
+// checkKeepsNothing asks for the answers to many tables and rates one after the other, and then again at the same time.
+func checkKeepsNothing[T comparable](t *testing.T, ask func(x impl.LifeTable, rate int64) T) {
+	t.Helper()
 	tables := sampleTables()[:12]
-	want := map[[2]int]impl.Columns{}
-	ask := func(i, rate int) impl.Columns {
-		c, _ := impl.ColumnsAt(tables[i], int64(rate), tables[i].First+1)
-		return c
-	}
+	want := map[[2]int]T{}
 	for i := range tables {
 		for rate := range impl.MaxRate + 1 {
-			want[[2]int{i, rate}] = ask(i, rate)
+			want[[2]int{i, rate}] = ask(tables[i], int64(rate))
 		}
 	}
 	var workers sync.WaitGroup
@@ -445,11 +442,18 @@ func TestColumnsKeepNothing(t *testing.T) {
 			random := rand.New(rand.NewSource(int64(worker)))
 			for range 2000 {
 				i, rate := random.Intn(len(tables)), random.Intn(impl.MaxRate+1)
-				if got := ask(i, rate); got != want[[2]int{i, rate}] {
-					t.Errorf("ColumnsAt(%v, %d) = %v; want %v", tables[i], rate, got, want[[2]int{i, rate}])
+				if got := ask(tables[i], int64(rate)); got != want[[2]int{i, rate}] {
+					t.Errorf("%v at the rate %d: %v; want %v", tables[i], rate, got, want[[2]int{i, rate}])
 				}
 			}
 		})
 	}
 	workers.Wait()
+}
+
+func TestColumnsKeepNothing(t *testing.T) {
+	checkKeepsNothing(t, func(x impl.LifeTable, rate int64) impl.Columns {
+		c, _ := impl.ColumnsAt(x, rate, x.First+1)
+		return c
+	})
 }
