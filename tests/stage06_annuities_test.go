@@ -199,30 +199,37 @@ func TestAnnuitiesAtAllRates(t *testing.T) {
 	}
 }
 
+// byChance calls try for all sample tables, with rates, ages at which lives are left, and amounts up to a limit that are
+// made by chance.
+func byChance(seed int64, limit int64, try func(random *rand.Rand, x impl.LifeTable, rate, age, amount int64)) {
+	random := rand.New(rand.NewSource(seed))
+	for _, x := range sampleTables() {
+		for range 60 {
+			rate, amount := random.Int63n(impl.MaxRate+1), 1+random.Int63n(limit)
+			try(random, x, rate, x.First+random.Int63n(endOf(x)-x.First), amount)
+		}
+	}
+}
+
 // TestPartsOfAnnuities checks promise 6: payments for some years and those behind them cost together what payments for
 // life cost, but for a cent.
 func TestPartsOfAnnuities(t *testing.T) {
-	random := rand.New(rand.NewSource(62))
 	found := map[int64]int{}
-	for _, x := range sampleTables() {
-		for range 60 {
-			rate, amount := random.Int63n(impl.MaxRate+1), 1+random.Int63n(maxPayment)
-			age := x.First + random.Int63n(endOf(x)-x.First)
-			for _, n := range append(numbersOfYears(x, age), random.Int63n(min(impl.MaxYears, impl.MaxAge-age)+1)) {
-				life, code := impl.LifeAnnuity(x, rate, age, amount)
-				term, termCode := impl.TermAnnuity(x, rate, age, amount, n)
-				late, lateCode := impl.LateAnnuity(x, rate, age, amount, n)
-				more := term + late - life
-				if more < 0 || more > 1 || termCode != code || lateCode != code {
-					t.Errorf("(%v, %d, %d, %d, %d): %d for life, %d for the first payments, %d for the later ones; codes %d, %d, %d", x, rate, age, amount, n, life, term, late, code, termCode, lateCode)
-				}
-				if n == 0 && (term != 0 || late != life) || n >= endOf(x)-age && (term != life || late != 0) {
-					t.Errorf("(%v, %d, %d, %d, %d): %d for life, %d for the first payments, %d for the later ones", x, rate, age, amount, n, life, term, late)
-				}
-				found[more]++
+	byChance(62, maxPayment, func(random *rand.Rand, x impl.LifeTable, rate, age, amount int64) {
+		for _, n := range append(numbersOfYears(x, age), random.Int63n(min(impl.MaxYears, impl.MaxAge-age)+1)) {
+			life, code := impl.LifeAnnuity(x, rate, age, amount)
+			term, termCode := impl.TermAnnuity(x, rate, age, amount, n)
+			late, lateCode := impl.LateAnnuity(x, rate, age, amount, n)
+			more := term + late - life
+			if more < 0 || more > 1 || termCode != code || lateCode != code {
+				t.Errorf("(%v, %d, %d, %d, %d): %d for life, %d for the first payments, %d for the later ones; codes %d, %d, %d", x, rate, age, amount, n, life, term, late, code, termCode, lateCode)
 			}
+			if n == 0 && (term != 0 || late != life) || n >= endOf(x)-age && (term != life || late != 0) {
+				t.Errorf("(%v, %d, %d, %d, %d): %d for life, %d for the first payments, %d for the later ones", x, rate, age, amount, n, life, term, late)
+			}
+			found[more]++
 		}
-	}
+	})
 	if found[0] == 0 || found[1] == 0 {
 		t.Errorf("differences that were tried: %v", found)
 	}
@@ -333,23 +340,18 @@ func TestAmountForByHand(t *testing.T) {
 
 // TestAmountsArePaidFor checks that the price of an annuity is the least one that is enough for its amount.
 func TestAmountsArePaidFor(t *testing.T) {
-	random := rand.New(rand.NewSource(64))
-	for _, x := range sampleTables() {
-		for range 30 {
-			rate, amount := random.Int63n(impl.MaxRate+1), 1+random.Int63n(maxPayment)
-			age := x.First + random.Int63n(endOf(x)-x.First)
-			price, code := impl.LifeAnnuity(x, rate, age, amount)
-			if code != impl.ErrNone {
-				continue
-			}
-			if n, _ := impl.AmountFor(x, rate, age, price); n < amount {
-				t.Errorf("(%v, %d, %d): %d costs %d, which is enough for %d only", x, rate, age, amount, price, n)
-			}
-			if n, _ := impl.AmountFor(x, rate, age, price-1); n >= amount {
-				t.Errorf("(%v, %d, %d): %d costs %d, but one less is enough for %d", x, rate, age, amount, price, n)
-			}
+	byChance(64, maxPayment, func(_ *rand.Rand, x impl.LifeTable, rate, age, amount int64) {
+		price, code := impl.LifeAnnuity(x, rate, age, amount)
+		if code != impl.ErrNone {
+			return
 		}
-	}
+		if n, _ := impl.AmountFor(x, rate, age, price); n < amount {
+			t.Errorf("(%v, %d, %d): %d costs %d, which is enough for %d only", x, rate, age, amount, price, n)
+		}
+		if n, _ := impl.AmountFor(x, rate, age, price-1); n >= amount {
+			t.Errorf("(%v, %d, %d): %d costs %d, but one less is enough for %d", x, rate, age, amount, price, n)
+		}
+	})
 }
 
 func TestMeanPaymentsExamples(t *testing.T) {
