@@ -926,6 +926,27 @@ func checkNothingReserved(t *testing.T, b impl.Basis, p impl.Policy) {
 	}
 }
 
+// wrongPolicies are policies with one wrong number, or two, and otherwise those of a policy that is valid for a life table.
+func wrongPolicies(x impl.LifeTable, p impl.Policy) []impl.Policy {
+	wrong := []impl.Policy{{}}
+	for _, n := range noKinds {
+		wrong = append(wrong, policy(n, p.Age, p.Years, p.Sum, p.Load), policy(n, p.Age, 1-p.Years, p.Sum, p.Load))
+	}
+	for _, n := range append(wrongAges(x), endOf(x), impl.MaxAge) {
+		wrong = append(wrong, policy(p.Kind, n, p.Years, p.Sum, p.Load))
+	}
+	for _, n := range wrongYearsOfKind(p.Kind, p.Age) {
+		wrong = append(wrong, policy(p.Kind, p.Age, n, p.Sum, p.Load))
+	}
+	for i, n := range noSums {
+		wrong = append(wrong, policy(p.Kind, p.Age, p.Years, n, p.Load), policy(p.Kind, p.Age, p.Years, n, noLoads[i]))
+	}
+	for _, n := range noLoads {
+		wrong = append(wrong, policy(p.Kind, p.Age, p.Years, p.Sum, n))
+	}
+	return wrong
+}
+
 // TestReservesOfNoPolicies has policies with one wrong number, or two.
 func TestReservesOfNoPolicies(t *testing.T) {
 	for _, x := range append(sampleTables(), longTable, lateTable) {
@@ -937,24 +958,8 @@ func TestReservesOfNoPolicies(t *testing.T) {
 			for _, rate := range []int64{0, 40, impl.MaxRate} {
 				b := basis(x, rate)
 				checkYear(t, b, p, policyByHandAt(b, p, 0))
-				wrong := []impl.Policy{{}}
-				for _, n := range noKinds {
-					wrong = append(wrong, policy(n, p.Age, p.Years, p.Sum, p.Load), policy(n, p.Age, 1-p.Years, p.Sum, p.Load))
-				}
-				for _, n := range append(wrongAges(x), endOf(x), impl.MaxAge) {
-					wrong = append(wrong, policy(p.Kind, n, p.Years, p.Sum, p.Load))
-				}
-				for _, n := range wrongYearsOfKind(p.Kind, p.Age) {
-					wrong = append(wrong, policy(p.Kind, p.Age, n, p.Sum, p.Load))
-				}
-				for i, n := range noSums {
-					wrong = append(wrong, policy(p.Kind, p.Age, p.Years, n, p.Load), policy(p.Kind, p.Age, p.Years, n, noLoads[i]))
-				}
-				for _, n := range noLoads {
-					wrong = append(wrong, policy(p.Kind, p.Age, p.Years, p.Sum, n))
-				}
-				for _, p := range wrong {
-					checkNothingReserved(t, b, p)
+				for _, wrong := range wrongPolicies(x, p) {
+					checkNothingReserved(t, b, wrong)
 				}
 			}
 		}
